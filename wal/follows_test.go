@@ -591,6 +591,59 @@ func TestTornOverBytesNoughtWhateverSumsAre(t *testing.T) {
 	}
 }
 
+// A mark that is torn in its midst may be just that of an epoch that is begun later: a piece that is torn over it has one mark ahead and behind. Here the sum of what is left is right, too.
+func TestTornTwiceWhateverSumsAre(t *testing.T) {
+	d := dice(91)
+	for _, x := range []struct{ first, second, third, end int }{
+		{0xfe, 0x100, 0x1fe, 252},
+		{0x10, 0x150, 0x110, 252}, // one that is below the epoch that was torn
+		{0xfffe, 0x10000, 0x1fffe, 251},
+		{0xfffe, 0x10000, 0x100fe, 252},
+		{0xfffffe, 0x1000000, 0x1fffffe, 250},
+	} {
+		for range 60 {
+			old, young := sectorsByWords(x.second, 0, [][]byte{d.bytes(226)})[0], d.bytes(226)
+			at := 24 + d.below(200)
+			piece := sectorsByWords(x.third, 0, [][]byte{young})[0]
+			forge(old[:244], 20, crc32.ChecksumIEEE(append(slices.Clone(piece[:at]), old[at:244]...)))
+			for cut := range 5 {
+				l, on := begun(t, 4, x.first)
+				commit(t, l, [][]byte{d.bytes(226)})
+				want(t, "Begin", l.Begin(x.second), api.OK)
+				want(t, "Append", l.Append(old[17:243]), api.OK)
+				on.Cut(1)
+				want(t, "Commit", l.Commit(), api.ErrDown)
+				on, _ = on.Lose(api.Loss{Torn: 0, At: x.end})
+				left, _ := on.Read(0)
+				left = append(slices.Clone(piece[:at]), left[at:]...)
+				if groupAt([][]byte{left}, x.third, 0) == nil {
+					t.Fatal("what a torn write would leave does not stand: it is not asked whether that counts")
+				}
+				l = open(t, on, 0, 4, x.first)
+				want(t, "Begin", l.Begin(x.third), api.OK)
+				want(t, "Append", l.Append(young), api.OK)
+				on.Cut(cut)
+				e := l.Commit()
+				if e == api.OK != (cut == 4) {
+					t.Fatalf("Commit: error %d", e)
+				}
+				for _, loss := range []api.Loss{{Torn: -1}, {Kept: []bool{true}, Torn: -1}, {Torn: 0, At: at}, {Torn: 0, At: 7}, {Torn: 0, At: 8}, {Torn: 0, At: 255}} {
+					after, _ := on.Lose(loss)
+					var own [][][]byte
+					last := [][]byte{young}
+					if e == api.OK {
+						own, last = [][][]byte{last}, nil
+					}
+					groups := open(t, after, 0, 4, x.third).Groups()
+					if !sameGroups(groups, own) && !sameGroups(groups, append(own, last)) {
+						t.Fatalf("torn at %d: %v", at, groups)
+					}
+				}
+			}
+		}
+	}
+}
+
 // A disk that loses power again and again, with a new epoch behind each loss.
 func TestManyLossesOfPower(t *testing.T) {
 	there, gone, all := 0, 0, 0
