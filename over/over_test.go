@@ -60,6 +60,11 @@ func read(t *testing.T, d *disk.Disk, i int) []byte {
 	return s
 }
 
+// Whatever is opened is mistaken, and nothing is.
+func everything(int, []byte) bool { return true }
+
+func nothing(int, []byte) bool { return false }
+
 func opened(b []byte) bool {
 	_, _, _, e := stamp.Open(b)
 	return e == api.OK
@@ -83,7 +88,7 @@ func TestWriteWritesInOrderAndSyncs(t *testing.T) {
 	for _, old := range [][]byte{make([]byte, 256), wrap(t, 9, nil), wrap(t, 1, []byte("xyz")), wrap(t, 2, nil), bytes.Repeat([]byte{9}, 256), stamp.Torn(a, c, 100)} {
 		d := laid(t, old, old, old)
 		steps := d.Steps()
-		if e := over.Write(d, 1, a, b, c); e != api.OK || d.Steps() != steps+4 || len(d.Pending()) != 0 {
+		if e := over.Write(d, 1, everything, a, b, c); e != api.OK || d.Steps() != steps+4 || len(d.Pending()) != 0 {
 			t.Fatalf("Write: error %d, %d steps", e, d.Steps()-steps)
 		}
 		for i, s := range [][]byte{make([]byte, 256), a, b, c, make([]byte, 256)} {
@@ -94,7 +99,7 @@ func TestWriteWritesInOrderAndSyncs(t *testing.T) {
 		for cut := range 4 {
 			d := laid(t, old, old, old)
 			d.Cut(cut)
-			if e := over.Write(d, 1, a, b, c); e != api.ErrDown || !slices.Equal(d.Pending(), []int{1, 2, 3}[:cut]) {
+			if e := over.Write(d, 1, everything, a, b, c); e != api.ErrDown || !slices.Equal(d.Pending(), []int{1, 2, 3}[:cut]) {
 				t.Fatalf("cut behind %d steps: error %d, %v wait", cut, e, d.Pending())
 			}
 		}
@@ -103,18 +108,18 @@ func TestWriteWritesInOrderAndSyncs(t *testing.T) {
 
 func TestWriteIsRefusedAsADiskRefusesIt(t *testing.T) {
 	a := wrap(t, 1, nil)
-	if e := over.Write(nil, 0, a); e != api.ErrNil {
+	if e := over.Write(nil, 0, everything, a); e != api.ErrNil {
 		t.Errorf("no disk: error %d", e)
 	}
 	for _, at := range []int{-1, 3, 4} {
 		d := laid(t, a)
-		if e := over.Write(d, at, a); e != api.ErrInvalid {
+		if e := over.Write(d, at, everything, a); e != api.ErrInvalid {
 			t.Errorf("at %d: error %d", at, e)
 		}
 	}
 	for _, n := range []int{0, 1, 255, 257} {
 		for _, old := range [][]byte{make([]byte, 256), a, stamp.Torn(a, wrap(t, 2, nil), 9)} {
-			if e := over.Write(laid(t, old), 1, make([]byte, n)); e != api.ErrInvalid {
+			if e := over.Write(laid(t, old), 1, everything, make([]byte, n)); e != api.ErrInvalid {
 				t.Errorf("%d bytes: error %d", n, e)
 			}
 		}
@@ -133,7 +138,7 @@ func TestWriteOverWhatCouldBeMistaken(t *testing.T) {
 		for cut := range 5 {
 			on := laid(t, old)
 			on.Cut(cut)
-			e := over.Write(on, 1, young)
+			e := over.Write(on, 1, everything, young)
 			if e == api.OK != (cut == 4) {
 				t.Fatalf("cut behind %d steps: error %d", cut, e)
 			}
@@ -192,7 +197,7 @@ func TestWriteOverWhatCouldBeMistakenWithTheNextLastByte(t *testing.T) {
 		for cut := range 4 {
 			on := laid(t, old)
 			on.Cut(cut)
-			if e := over.Write(on, 1, young); e != api.ErrDown {
+			if e := over.Write(on, 1, everything, young); e != api.ErrDown {
 				t.Fatalf("cut behind %d steps: error %d", cut, e)
 			}
 			for tear := range 256 {
@@ -224,12 +229,12 @@ func TestWriteOfSeveralOverWhatCouldBeMistaken(t *testing.T) {
 		}
 		on := laid(t, old...)
 		on.Cut(len(need))
-		if e := over.Write(on, 1, young...); e != api.ErrDown || !slices.Equal(on.Pending(), need) {
+		if e := over.Write(on, 1, everything, young...); e != api.ErrDown || !slices.Equal(on.Pending(), need) {
 			t.Fatalf("error %d, %v wait, not %v", e, on.Pending(), need)
 		}
 		on = laid(t, old...)
 		steps := on.Steps()
-		if e := over.Write(on, 1, young...); e != api.OK || on.Steps() != steps+len(need)+1+5 {
+		if e := over.Write(on, 1, everything, young...); e != api.OK || on.Steps() != steps+len(need)+1+5 {
 			t.Fatalf("error %d, %d steps", e, on.Steps()-steps)
 		}
 		for i, s := range young {
@@ -237,5 +242,58 @@ func TestWriteOfSeveralOverWhatCouldBeMistaken(t *testing.T) {
 				t.Fatalf("sector %d is another one", i)
 			}
 		}
+	}
+}
+
+// Where nothing would be mistaken, there is no more than the writes and a sync.
+func TestWriteOverWhatIsNotMistaken(t *testing.T) {
+	d := dice(4)
+	for range 60 {
+		young := wrap(t, 1+d.throw()>>d.below(60), d.bytes(1+d.below(233)))
+		old := d.mistaken(young)
+		on := laid(t, old)
+		steps := on.Steps()
+		if e := over.Write(on, 1, nothing, young); e != api.OK || on.Steps() != steps+2 || !bytes.Equal(read(t, on, 1), young) {
+			t.Fatalf("error %d, %d steps", e, on.Steps()-steps)
+		}
+		on = laid(t, old)
+		on.Cut(1)
+		e := over.Write(on, 1, nothing, young)
+		after, _ := on.Lose(api.Loss{Kept: []bool{true}, Torn: -1})
+		if e != api.ErrDown || !bytes.Equal(read(t, after, 1), young) {
+			t.Fatalf("error %d, or another sector is written", e)
+		}
+	}
+}
+
+// What is asked for is what a torn write leaves, and is opened, and is neither of both; of each sector by its place.
+func TestWriteAsksWhatIsMistaken(t *testing.T) {
+	d, asked := dice(5), [4]int{}
+	for range 60 {
+		var young, old [][]byte
+		for i := range asked {
+			young = append(young, wrap(t, uint64(100+i), d.bytes(200)))
+			old = append(old, d.mistaken(young[i]))
+		}
+		only := d.below(len(asked))
+		on := laid(t, old...)
+		steps := on.Steps()
+		e := over.Write(on, 1, func(i int, left []byte) bool {
+			asked[i]++
+			torn := false
+			for at := range 256 { // over a ground the last byte is another one
+				torn = torn || bytes.Equal(left[:255], stamp.Torn(old[i], young[i], at)[:255])
+			}
+			if !torn || !opened(left) || bytes.Equal(left, old[i]) || bytes.Equal(left, young[i]) {
+				t.Fatalf("it is asked whether another sector is mistaken for the sector %d", i)
+			}
+			return i == only
+		}, young...)
+		if e != api.OK || on.Steps() != steps+1+1+5 {
+			t.Fatalf("error %d, %d steps", e, on.Steps()-steps)
+		}
+	}
+	if slices.Contains(asked[:], 0) {
+		t.Errorf("asked %v times", asked)
 	}
 }

@@ -591,36 +591,58 @@ func TestTornOverBytesNoughtWhateverSumsAre(t *testing.T) {
 	}
 }
 
+// fillUpTo commits groups of a sector each, up to a place.
+func fillUpTo(t *testing.T, l *wal.Log, place int) [][][]byte {
+	t.Helper()
+	var groups [][][]byte
+	for range place {
+		commit(t, l, texts("abc"))
+		groups = append(groups, texts("abc"))
+	}
+	return groups
+}
+
+// tornMark is a disk whose sector at a place was torn in its last mark, of the second epoch over the first one, with what is left of the second one's group.
+func tornMark(t *testing.T, d *dice, first, second, end, place int, old []byte) *disk.Disk {
+	t.Helper()
+	l, on := begun(t, 4, first)
+	fillUpTo(t, l, place)
+	commit(t, l, [][]byte{d.bytes(226)})
+	want(t, "Begin", l.Begin(second), api.OK)
+	fillUpTo(t, l, place)
+	want(t, "Append", l.Append(old), api.OK)
+	on.Cut(1)
+	want(t, "Commit", l.Commit(), api.ErrDown)
+	on, _ = on.Lose(api.Loss{Torn: 0, At: end})
+	return on
+}
+
 // A mark that is torn in its midst may be just that of an epoch that is begun later: a piece that is torn over it has one mark ahead and behind. Here the sum of what is left is right, too.
 func TestTornTwiceWhateverSumsAre(t *testing.T) {
 	d := dice(91)
-	for _, x := range []struct{ first, second, third, end int }{
+	for k, x := range []struct{ first, second, third, end int }{
 		{0xfe, 0x100, 0x1fe, 252},
 		{0x10, 0x150, 0x110, 252}, // one that is below the epoch that was torn
 		{0xfffe, 0x10000, 0x1fffe, 251},
 		{0xfffe, 0x10000, 0x100fe, 252},
 		{0xfffffe, 0x1000000, 0x1fffffe, 250},
 	} {
-		for range 60 {
-			old, young := sectorsByWords(x.second, 0, [][]byte{d.bytes(226)})[0], d.bytes(226)
+		for round := range 60 {
+			place := (k + round) % 4
+			old, young := sectorsByWords(x.second, place, [][]byte{d.bytes(226)})[0], d.bytes(226)
 			at := 24 + d.below(200)
-			piece := sectorsByWords(x.third, 0, [][]byte{young})[0]
+			piece := sectorsByWords(x.third, place, [][]byte{young})[0]
 			forge(old[:244], 20, crc32.ChecksumIEEE(append(slices.Clone(piece[:at]), old[at:244]...)))
 			for cut := range 5 {
-				l, on := begun(t, 4, x.first)
-				commit(t, l, [][]byte{d.bytes(226)})
-				want(t, "Begin", l.Begin(x.second), api.OK)
-				want(t, "Append", l.Append(old[17:243]), api.OK)
-				on.Cut(1)
-				want(t, "Commit", l.Commit(), api.ErrDown)
-				on, _ = on.Lose(api.Loss{Torn: 0, At: x.end})
-				left, _ := on.Read(0)
-				left = append(slices.Clone(piece[:at]), left[at:]...)
-				if groupAt([][]byte{left}, x.third, 0) == nil {
+				on := tornMark(t, &d, x.first, x.second, x.end, place, old[17:243])
+				l := open(t, on, 0, 4, x.first)
+				want(t, "Begin", l.Begin(x.third), api.OK)
+				own := fillUpTo(t, l, place)
+				left := imageOf(t, on, 0, 4)
+				left[place] = append(slices.Clone(piece[:at]), left[place][at:]...)
+				if groupAt(left, x.third, place) == nil {
 					t.Fatal("what a torn write would leave does not stand: it is not asked whether that counts")
 				}
-				l = open(t, on, 0, 4, x.first)
-				want(t, "Begin", l.Begin(x.third), api.OK)
 				want(t, "Append", l.Append(young), api.OK)
 				on.Cut(cut)
 				e := l.Commit()
@@ -629,16 +651,48 @@ func TestTornTwiceWhateverSumsAre(t *testing.T) {
 				}
 				for _, loss := range []api.Loss{{Torn: -1}, {Kept: []bool{true}, Torn: -1}, {Torn: 0, At: at}, {Torn: 0, At: 7}, {Torn: 0, At: 8}, {Torn: 0, At: 255}} {
 					after, _ := on.Lose(loss)
-					var own [][][]byte
-					last := [][]byte{young}
-					if e == api.OK {
-						own, last = [][][]byte{last}, nil
-					}
 					groups := open(t, after, 0, 4, x.third).Groups()
-					if !sameGroups(groups, own) && !sameGroups(groups, append(own, last)) {
+					there := sameGroups(groups, append(slices.Clone(own), [][]byte{young}))
+					if !there && (e == api.OK || !sameGroups(groups, own)) {
 						t.Fatalf("torn at %d: %v", at, groups)
 					}
 				}
+			}
+		}
+	}
+}
+
+// A later piece of a group, likewise.
+func TestALaterPieceTornTwiceWhateverSumsAre(t *testing.T) {
+	d := dice(92)
+	for range 60 {
+		old, young := sectorsByWords(0x100, 0, [][]byte{d.bytes(692)}), d.bytes(692)
+		pieces := sectorsByWords(0x1fe, 0, [][]byte{young})
+		k, at := 1+d.below(2), 24+d.below(200)
+		forge(old[k][:244], 20, crc32.ChecksumIEEE(append(slices.Clone(pieces[k][:at]), old[k][at:244]...)))
+		for cut := range 7 {
+			l, on := begun(t, 4, 0xfe)
+			commit(t, l, [][]byte{d.bytes(692)})
+			want(t, "Begin", l.Begin(0x100), api.OK)
+			want(t, "Append", l.Append(recordOf(old)), api.OK)
+			on.Cut(3)
+			want(t, "Commit", l.Commit(), api.ErrDown)
+			on, _ = on.Lose(api.Loss{Kept: []bool{true, true, true}, Torn: k, At: 252})
+			left := append(slices.Clone(pieces[:k]), append(slices.Clone(pieces[k][:at]), imageOf(t, on, 0, 4)[k][at:]...))
+			if groupAt(append(left, pieces[k+1:]...), 0x1fe, 0) == nil {
+				t.Fatal("what a torn write would leave does not stand: it is not asked whether that counts")
+			}
+			l = open(t, on, 0, 4, 0xfe)
+			want(t, "Begin", l.Begin(0x1fe), api.OK)
+			want(t, "Append", l.Append(young), api.OK)
+			on.Cut(cut)
+			e := l.Commit()
+			if e == api.OK != (cut == 6) {
+				t.Fatalf("Commit: error %d", e)
+			}
+			for torn := range on.Pending() {
+				after, _ := on.Lose(api.Loss{Kept: slices.Repeat([]bool{true}, 3), Torn: torn, At: at})
+				wantLog(t, open(t, after, 0, 4, 0x1fe), nil, 0, 0, 4)
 			}
 		}
 	}
