@@ -2,6 +2,7 @@ package wal_test
 
 import (
 	"bytes"
+	"hash/crc32"
 	"slices"
 	"testing"
 
@@ -12,38 +13,62 @@ import (
 
 // P8.4: the pieces of what waits are written, in order, and the disk synced, and nothing else is
 
-// wantPiecesAndSync commits a group as the first one of an epoch, on disks of four sectors that are made alike: in as many steps as it has pieces, and one; torn anywhere, the epoch has that group or none.
-func wantPiecesAndSync(t *testing.T, made func() (*disk.Disk, *wal.Log), epoch int, group [][]byte) {
+// begin lays a disk of four sectors, which are all of a log that may begin an epoch.
+type begin func() (*disk.Disk, *wal.Log)
+
+// waits is a log of the epoch in which groups were committed, and another one waits.
+func (lay begin) waits(t *testing.T, epoch int, ahead [][][]byte, group [][]byte) (*disk.Disk, *wal.Log) {
 	t.Helper()
-	need := sectorsByWords(epoch, 0, group)
-	d, l := made()
+	d, l := lay()
 	want(t, "Begin", l.Begin(epoch), api.OK)
+	for _, g := range ahead {
+		commit(t, l, g)
+	}
 	appendAll(t, l, group)
-	steps := d.Steps()
+	return d, l
+}
+
+// wantPiecesAndSync commits a group on disks that are laid alike: in as many steps as it has pieces, and one; cut behind each of these, what waits are the first pieces, and nothing else.
+func wantPiecesAndSync(t *testing.T, lay begin, epoch int, ahead [][][]byte, group [][]byte) {
+	t.Helper()
+	from := len(allByWords(epoch, ahead))
+	need := sectorsByWords(epoch, from, group)
+	d, l := lay.waits(t, epoch, ahead, group)
+	all, steps := imageOf(t, d, 0, 4), d.Steps()
 	want(t, "Commit", l.Commit(), api.OK)
 	if d.Steps() != steps+len(need)+1 || len(d.Pending()) != 0 {
 		t.Fatalf("Commit: %d steps, not %d Writes and a Sync", d.Steps()-steps, len(need))
 	}
-	wantLog(t, open(t, d, 0, 4, epoch), [][][]byte{group}, 0, len(need), 4-len(need))
+	copy(all[from:], need)
+	wantDisk(t, d, 0, all)
+	used := from + len(need)
+	wantLog(t, open(t, d, 0, 4, epoch), append(slices.Clone(ahead), group), 0, used, 4-used)
 
-	for cut := range len(need) {
-		d, l = made()
-		want(t, "Begin", l.Begin(epoch), api.OK)
-		appendAll(t, l, group)
-		d.Cut(cut + 1)
+	for cut := range len(need) + 1 {
+		d, l = lay.waits(t, epoch, ahead, group)
+		d.Cut(cut)
 		want(t, "Commit", l.Commit(), api.ErrDown)
-		if p := d.Pending(); !slices.Equal(p, []int{0, 1, 2, 3}[:cut+1]) {
-			t.Fatalf("cut behind %d steps: %v wait", cut+1, p)
+		if p := d.Pending(); !slices.Equal(p, []int{0, 1, 2, 3}[from:from+cut]) {
+			t.Fatalf("cut behind %d steps: %v wait", cut, p)
 		}
-		all := slices.Repeat([]bool{true}, cut+1)
-		after, _ := d.Lose(api.Loss{Kept: all, Torn: -1})
-		for i, s := range imageOf(t, after, 0, cut+1) {
+		after, _ := d.Lose(api.Loss{Kept: slices.Repeat([]bool{true}, cut), Torn: -1})
+		for i, s := range imageOf(t, after, from, cut) {
 			if !bytes.Equal(s, need[i]) {
 				t.Fatalf("what is written is not the piece's sector: its first bytes are %v, its last ones %v", s[:8], s[248:])
 			}
 		}
+	}
+}
+
+// wantAllOrNone cuts the Commit of an epoch's first group behind each of its Writes, and tears that anywhere: the epoch has that group or none.
+func wantAllOrNone(t *testing.T, lay begin, epoch int, group [][]byte) {
+	t.Helper()
+	for cut := range sectorsByWords(epoch, 0, group) {
+		d, l := lay.waits(t, epoch, nil, group)
+		d.Cut(cut + 1)
+		want(t, "Commit", l.Commit(), api.ErrDown)
 		for at := range 257 {
-			after, _ = d.Lose(api.Loss{Kept: all, Torn: cut, At: at})
+			after, _ := d.Lose(api.Loss{Kept: slices.Repeat([]bool{true}, cut+1), Torn: cut, At: at})
 			if g := open(t, after, 0, 4, epoch).Groups(); len(g) > 0 && !sameGroups(g, [][][]byte{group}) {
 				t.Fatalf("torn at %d: %v", at, g)
 			}
@@ -53,20 +78,55 @@ func wantPiecesAndSync(t *testing.T, made func() (*disk.Disk, *wal.Log), epoch i
 
 func TestACommitOverASectorThatIsSpoilt(t *testing.T) {
 	for _, group := range [][][]byte{{{7, 8, 9}}, {counted(500)}} {
-		for at := range 256 {
-			wantPiecesAndSync(t, func() (*disk.Disk, *wal.Log) {
-				l, d := begun(t, 4, 2)
-				commit(t, l, [][]byte{counted(700)})
-				for i, s := range imageOf(t, d, 0, 4) {
-					d.Spoil(i, at, s[at]^1)
+		for _, ahead := range [][][][]byte{nil, {texts("abc")}} {
+			for at := range 256 {
+				for _, bit := range []byte{1, 128} {
+					wantPiecesAndSync(t, func() (*disk.Disk, *wal.Log) {
+						l, d := begun(t, 4, 2)
+						commit(t, l, [][]byte{counted(700)})
+						for i, s := range imageOf(t, d, 0, 4) {
+							d.Spoil(i, at, s[at]^bit)
+						}
+						return d, l
+					}, 3, ahead, group)
 				}
-				return d, l
-			}, 3, group)
+			}
 		}
 	}
 }
 
-// What is torn again may be the sector that stood there at first, with its own epoch, which was begun, and is over.
+// endsWith is a sector that ends with another mark, and whose sum is right for that one; its first mark stays.
+func endsWith(s []byte, mark uint64) []byte {
+	all := sectorByWords(mark, s[8], s[10:10+int(s[9])])
+	copy(all, s[:8])
+	return all
+}
+
+// What was spoilt ends with the mark that is written next, and its sum is right for that one: of the first piece, or of a later one, or of all.
+func TestACommitOverSectorsThatEndWithItsMarks(t *testing.T) {
+	for _, x := range []struct{ old, epoch int }{{2, 3}, {2, 4}, {255, 256}, {256, 257}, {256, 510}, {254, 510}, {7, greatest}} {
+		for which := 1; which < 16; which++ {
+			lay := func() (*disk.Disk, *wal.Log) {
+				l, d := begun(t, 4, x.old)
+				commit(t, l, [][]byte{counted(700)})
+				for i, s := range imageOf(t, d, 0, 4) {
+					for at, b := range endsWith(s, markByWords(x.epoch, i)) {
+						if which>>i&1 == 1 {
+							d.Spoil(i, at, b)
+						}
+					}
+				}
+				return d, l
+			}
+			for _, group := range [][][]byte{{{7, 8, 9}}, {counted(300)}, {make([]byte, 700)}} {
+				wantPiecesAndSync(t, lay, x.epoch, nil, group)
+			}
+			wantPiecesAndSync(t, lay, x.epoch, [][][]byte{texts("abc")}, [][]byte{make([]byte, 600)})
+		}
+	}
+}
+
+// What is torn again may be the sector that stood there at first, with its own epoch, which was begun, and is over; or it ends with the mark that is written next.
 func TestACommitOverASectorThatIsTorn(t *testing.T) {
 	for _, x := range []struct{ first, second, third int }{
 		{256, 513, 301},
@@ -82,7 +142,7 @@ func TestACommitOverASectorThatIsTorn(t *testing.T) {
 	} {
 		for _, end := range places() {
 			for torn := range 3 {
-				wantPiecesAndSync(t, func() (*disk.Disk, *wal.Log) {
+				lay := func() (*disk.Disk, *wal.Log) {
 					l, d := begun(t, 4, x.first)
 					commit(t, l, [][]byte{counted(650)})
 					want(t, "Begin", l.Begin(x.second), api.OK)
@@ -91,22 +151,50 @@ func TestACommitOverASectorThatIsTorn(t *testing.T) {
 					want(t, "Commit", l.Commit(), api.ErrDown)
 					d, _ = d.Lose(api.Loss{Kept: []bool{torn > 0, torn > 1}, Torn: torn, At: end})
 					return d, open(t, d, 0, 4, x.first)
-				}, x.third, [][]byte{counted(500)})
+				}
+				wantPiecesAndSync(t, lay, x.third, nil, [][]byte{counted(500)})
+				wantAllOrNone(t, lay, x.third, [][]byte{counted(500)})
 			}
 		}
 	}
 }
 
-// An epoch that is above the one that is written, but was begun, is another one as well.
+// An epoch that is above the one that is written is another one as well.
 func TestACommitOverASectorOfAGreaterEpoch(t *testing.T) {
 	for _, greater := range []int{4, 300, 70000, greatest} {
 		for at := range 256 {
-			wantPiecesAndSync(t, func() (*disk.Disk, *wal.Log) {
+			lay := func() (*disk.Disk, *wal.Log) {
 				l, d := begun(t, 4, greater)
 				commit(t, l, texts("abc"))
 				d.Spoil(0, at, imageOf(t, d, 0, 1)[0][at]^1)
 				return d, open(t, d, 0, 4, 1)
-			}, 3, texts("de"))
+			}
+			wantPiecesAndSync(t, lay, 3, nil, texts("de"))
 		}
+	}
+}
+
+// Any bytes: such as end with the marks that are written, or begin with them, with sums that are right for what a torn write would leave.
+func TestACommitOverAnyBytes(t *testing.T) {
+	d := dice(93)
+	for range 500 {
+		epoch := 2 + d.below(greatest-1)
+		young := [][]byte{d.bytes(692)}
+		old := sectorsByWords(epoch, 0, [][]byte{d.bytes(692)})
+		for i, piece := range sectorsByWords(epoch, 0, young) {
+			for range d.below(3) {
+				old[i][d.below(8)] ^= 1 << d.below(8)
+			}
+			for range d.below(2) {
+				old[i][248+d.below(8)] ^= 1 << d.below(8)
+			}
+			at := d.below(244)
+			s := crc32.ChecksumIEEE(append(slices.Clone(piece[:at]), old[i][at:244]...))
+			copy(old[i][244:], []byte{byte(s), byte(s >> 8), byte(s >> 16), byte(s >> 24)})
+		}
+		wantPiecesAndSync(t, func() (*disk.Disk, *wal.Log) {
+			on := laid(t, 4, 0, old)
+			return on, open(t, on, 0, 4, 1)
+		}, epoch, nil, young)
 	}
 }
