@@ -143,7 +143,7 @@ func (m *model) puts(no int, b []byte) api.Errno {
 		delete(m.settled, no)
 	}
 	m.time++
-	m.put[no] = one{b, false, m.time}
+	m.put[no] = one{lastNoughts(b), false, m.time}
 	return api.OK
 }
 
@@ -156,8 +156,14 @@ func (m *model) accept() int {
 	return n
 }
 
+// drop makes no page older: each is of the age that it has by the last call that got or put it.
 func (m *model) drop() int {
 	n := len(m.put)
+	for no, o := range m.put {
+		if was, s := m.settled[no]; s {
+			m.settled[no] = one{was.b, true, o.time}
+		}
+	}
 	clear(m.put)
 	return n
 }
@@ -245,6 +251,8 @@ func (g *game) bytes(no int) []byte {
 		b = b[:g.below(256)]
 	case 2:
 		b = sealed(b)
+	case 3:
+		copy(b[252:], []byte{byte(g.below(256)), byte(g.below(256)), byte(g.below(256)), byte(g.below(256))})
 	}
 	return b
 }

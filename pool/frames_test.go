@@ -307,21 +307,32 @@ func TestNothingToAcceptOrDrop(t *testing.T) {
 	wantGet(t, p, 2, with(2, "x"))
 }
 
-// A page that was dirty is put again, once, twice, or with a Get between, and dropped: what it was as a dirty frame, of its age.
+// A page that was dirty is put again, once, twice, or with a Get between, and dropped: what it was as a dirty frame, as young as the last Get or Put made it.
 func TestDropOfWhatWasDirty(t *testing.T) {
-	for name, again := range map[string]func(p *pool.Pool){
-		"once":               func(p *pool.Pool) { puts(t, p, "y", 0) },
-		"twice":              func(p *pool.Pool) { puts(t, p, "y", 0); puts(t, p, "z", 0) },
-		"the same":           func(p *pool.Pool) { puts(t, p, "x", 0) },
-		"got between":        func(p *pool.Pool) { puts(t, p, "y", 0); wantGet(t, p, 0, with(0, "y")); puts(t, p, "z", 0) },
-		"got behind":         func(p *pool.Pool) { puts(t, p, "y", 0); wantGet(t, p, 0, with(0, "y")) },
-		"behind another Put": func(p *pool.Pool) { puts(t, p, "y", 1); puts(t, p, "y", 0) },
+	for name, x := range map[string]struct {
+		again func(p *pool.Pool)
+		order []int
+	}{
+		"once":          {func(p *pool.Pool) { puts(t, p, "y", 0) }, []int{1, 2, 0}},
+		"twice":         {func(p *pool.Pool) { puts(t, p, "y", 0); puts(t, p, "z", 0) }, []int{1, 2, 0}},
+		"the same":      {func(p *pool.Pool) { puts(t, p, "x", 0) }, []int{1, 2, 0}},
+		"got between":   {func(p *pool.Pool) { puts(t, p, "y", 0); wantGet(t, p, 0, with(0, "y")); puts(t, p, "z", 0) }, []int{1, 2, 0}},
+		"got behind":    {func(p *pool.Pool) { puts(t, p, "y", 0); wantGet(t, p, 0, with(0, "y")) }, []int{1, 2, 0}},
+		"the midst":     {func(p *pool.Pool) { puts(t, p, "y", 1) }, []int{0, 2, 1}},
+		"the youngest":  {func(p *pool.Pool) { puts(t, p, "y", 2) }, []int{0, 1, 2}},
+		"two":           {func(p *pool.Pool) { puts(t, p, "y", 1, 0) }, []int{2, 1, 0}},
+		"two, got":      {func(p *pool.Pool) { puts(t, p, "y", 1, 0); wantGet(t, p, 1, with(1, "y")) }, []int{2, 0, 1}},
+		"all":           {func(p *pool.Pool) { puts(t, p, "y", 2, 0, 1) }, []int{2, 0, 1}},
+		"another got":   {func(p *pool.Pool) { puts(t, p, "y", 0); wantGet(t, p, 1, with(1, "x")) }, []int{2, 0, 1}},
+		"dropped ahead": {func(p *pool.Pool) { puts(t, p, "y", 0); wantDrop(t, p, 1); puts(t, p, "z", 1) }, []int{2, 0, 1}},
+		"dropped twice": {func(p *pool.Pool) { puts(t, p, "y", 0, 1); wantDrop(t, p, 2); puts(t, p, "z", 0) }, []int{2, 1, 0}},
+		"refused":       {func(p *pool.Pool) { puts(t, p, "y", 0, 1); wantPut(t, p, 0, with(1, "z"), api.ErrStale) }, []int{2, 0, 1}},
 	} {
 		begin := func() *pool.Pool {
 			p := open(t, laid(t, 1, 9), 1, 9, 3)
 			puts(t, p, "x", 0, 1, 2)
 			wantAccept(t, p, 3)
-			again(p)
+			x.again(p)
 			fresh := p.Fresh()
 			wantFrames(t, p, fresh, []int{0, 1, 2}, []int{0, 1, 2})
 			wantDrop(t, p, len(fresh))
@@ -331,7 +342,7 @@ func TestDropOfWhatWasDirty(t *testing.T) {
 		t.Run(name, func(t *testing.T) {
 			p := begin()
 			wantFlush(t, p, api.OK)
-			wantAges(t, p, 3, 0, 1, 2)
+			wantAges(t, p, 3, x.order...)
 			p = begin()
 			for no := range 3 {
 				wantGet(t, p, no, with(no, "x"))
@@ -341,7 +352,7 @@ func TestDropOfWhatWasDirty(t *testing.T) {
 	}
 }
 
-// It is of its age among pages that were got and put in the meantime, too.
+// It is of its age among pages that were got in the meantime, too.
 func TestDropOfAnAgeBetweenOthers(t *testing.T) {
 	p := open(t, laid(t, 1, 12), 1, 12, 4)
 	gets(t, p, 0)
@@ -352,8 +363,8 @@ func TestDropOfAnAgeBetweenOthers(t *testing.T) {
 	gets(t, p, 2)
 	wantDrop(t, p, 1)
 	wantFlush(t, p, api.OK)
-	wantAges(t, p, 4, 0, 1, 3, 2)
-	// A page that was got as a dirty one, ahead of the Put, is as young as that made it.
+	wantAges(t, p, 4, 0, 3, 1, 2)
+	// A Get of the dirty page, ahead of the Put, does not count any more.
 	p = open(t, laid(t, 1, 12), 1, 12, 3)
 	puts(t, p, "x", 0, 1, 2)
 	wantAccept(t, p, 3)
@@ -362,7 +373,34 @@ func TestDropOfAnAgeBetweenOthers(t *testing.T) {
 	puts(t, p, "y", 0)
 	wantDrop(t, p, 1)
 	wantFlush(t, p, api.OK)
+	wantAges(t, p, 3, 2, 1, 0)
+	// A Get behind Drop makes it the youngest.
+	p = open(t, laid(t, 1, 12), 1, 12, 3)
+	puts(t, p, "x", 0, 1, 2)
+	wantAccept(t, p, 3)
+	puts(t, p, "y", 1, 0)
+	wantDrop(t, p, 2)
+	wantGet(t, p, 1, with(1, "x"))
+	wantFlush(t, p, api.OK)
 	wantAges(t, p, 3, 2, 0, 1)
+}
+
+// A page that was put last is not given up for another one, though what was put is dropped.
+func TestDropGivesUpTheOlderPage(t *testing.T) {
+	for _, got := range []bool{false, true} {
+		p := open(t, newDisk(t, 3), 0, 3, 2)
+		puts(t, p, "x", 0, 1)
+		wantAccept(t, p, 2)
+		puts(t, p, "y", 0)
+		if got {
+			wantGet(t, p, 0, with(0, "y"))
+		}
+		wantDrop(t, p, 1)
+		wantFlush(t, p, api.OK)
+		puts(t, p, "z", 2)
+		wantFrames(t, p, []int{2}, nil, []int{0, 2})
+		wantGet(t, p, 0, with(0, "x"))
+	}
 }
 
 // A page that was dirty is put again and accepted: what was put last, of that age.

@@ -34,6 +34,9 @@ func sealed(b []byte) []byte {
 	return append(slices.Clone(b[:252]), byte(s), byte(s>>8), byte(s>>16), byte(s>>24))
 }
 
+// lastNoughts is a page as it is held: what stands in its last four bytes does not count.
+func lastNoughts(b []byte) []byte { return append(slices.Clone(b[:252]), 0, 0, 0, 0) }
+
 func newDisk(t *testing.T, n int) *disk.Disk {
 	t.Helper()
 	d, e := disk.New(n)
@@ -643,19 +646,58 @@ func TestPutIsGot(t *testing.T) {
 	wantSector(t, d, 1, make([]byte, 256))
 }
 
-// Its last four bytes do not count: a page that is sealed already is one, and is sealed anew.
+// otherEnds are a page with other bytes in the last four: its sum, another one's, and each of them alone.
+func otherEnds(b []byte) [][]byte {
+	l := [][]byte{lastNoughts(b), sealed(b)}
+	for _, end := range [][]byte{sealed(with(9, "another"))[252:], {1, 2, 3, 4}, {255, 255, 255, 255}, {1, 0, 0, 0}, {0, 1, 0, 0}, {0, 0, 1, 0}, {0, 0, 0, 1}, {0, 0, 0, 128}} {
+		l = append(l, append(slices.Clone(b[:252]), end...))
+	}
+	return l
+}
+
+// Its last four bytes do not count: a page that is sealed already is one, is got with 0 there wherever it lies, and is sealed anew.
 func TestPutOfOtherLastBytes(t *testing.T) {
-	d := newDisk(t, 2)
-	p := open(t, d, 0, 2, 2)
-	any4 := append(with(1, "abc")[:252], 1, 2, 3, 4)
-	for _, b := range [][]byte{sealed(with(1, "abc")), any4} {
+	x, y := with(1, "abc"), with(1, "de")
+	for _, b := range otherEnds(x) {
+		d := newDisk(t, 2)
+		p := open(t, d, 0, 2, 2)
+		handed := slices.Clone(b)
 		wantPut(t, p, 1, b, api.OK)
-		wantGet(t, p, 1, b)
 		wantPut(t, p, 0, b, api.ErrStale)
+		wantGet(t, p, 1, x) // fresh
+		wantAccept(t, p, 1)
+		wantGet(t, p, 1, x) // dirty
+		wantPut(t, p, 1, sealed(y), api.OK)
+		wantGet(t, p, 1, y)
+		wantDrop(t, p, 1)
+		wantGet(t, p, 1, x) // what it was as a dirty frame
+		wantFlush(t, p, api.OK)
+		wantGet(t, p, 1, x) // clean
+		wantSector(t, d, 1, sealed(x))
+		wantGet(t, open(t, d, 0, 2, 1), 1, x)
+		for _, c := range otherEnds(y) {
+			wantPut(t, p, 1, c, api.OK)
+			wantGet(t, p, 1, y)
+		}
+		wantDrop(t, p, 1)
+		wantGet(t, p, 1, x) // read anew
+		if !bytes.Equal(b, handed) {
+			t.Fatal("what is handed in is changed")
+		}
+	}
+}
+
+// A frame that is given up, and read anew, holds what it held.
+func TestLastBytesOfWhatIsGivenUp(t *testing.T) {
+	for _, b := range otherEnds(with(0, "abc")) {
+		p := open(t, laid(t, 0, 3), 0, 3, 1)
+		wantPut(t, p, 0, b, api.OK)
 		wantAccept(t, p, 1)
 		wantFlush(t, p, api.OK)
-		wantSector(t, d, 1, sealed(with(1, "abc")))
-		wantGet(t, open(t, d, 0, 2, 1), 1, with(1, "abc"))
+		wantGet(t, p, 0, with(0, "abc"))
+		gets(t, p, 1)
+		wantFrames(t, p, nil, nil, []int{1})
+		wantGet(t, p, 0, with(0, "abc"))
 	}
 }
 
